@@ -7,6 +7,7 @@ import (
 	"unicode/utf8"
 
 	"bramble/api"
+	"bramble/sample"
 )
 
 // isText tells by the words of the chapter whether a text is one of an expression's.
@@ -127,7 +128,7 @@ func TestLongestTold(t *testing.T) {
 }
 
 func TestLongestOfAllSmall(t *testing.T) {
-	all := texts([]string{"a", "b"}, 4)
+	all := sample.Texts([]string{"a", "b"}, 4)
 	all = append(all, "c", "abc", "aé", "é", "\xff", "ab\xff", "a\xffb", "b\xc3", "\n", "\ufffd")
 	for _, x := range smalls() {
 		for _, s := range all {
@@ -144,7 +145,7 @@ func TestLongestAsTheLibraryHasIt(t *testing.T) {
 	for _, x := range smalls() {
 		re := regexp.MustCompile(`\A(?:` + Print(x) + ")")
 		re.Longest()
-		for _, s := range texts([]string{"a", "b", "é", "("}, 3) {
+		for _, s := range sample.Texts([]string{"a", "b", "é", "("}, 3) {
 			want := re.FindStringIndex(s)
 			n, ok := Longest(x, s)
 			if ok != (want != nil) || ok && n != want[1] {
@@ -213,7 +214,7 @@ func TestEmptyOfAllSmall(t *testing.T) {
 }
 
 func TestStarIsOptOfPlus(t *testing.T) {
-	all := append(texts([]string{"a", "b"}, 4), "aé", "\xff", "b\xff")
+	all := append(sample.Texts([]string{"a", "b"}, 4), "aé", "\xff", "b\xff")
 	for _, x := range smalls() {
 		for _, s := range all {
 			n, ok := Longest(star(x), s)
@@ -225,7 +226,7 @@ func TestStarIsOptOfPlus(t *testing.T) {
 }
 
 func TestAltIsTheLongestPart(t *testing.T) {
-	all := append(texts([]string{"a", "b"}, 3), "aé", "\xff", "b\xff")
+	all := append(sample.Texts([]string{"a", "b"}, 3), "aé", "\xff", "b\xff")
 	parts := grown([]api.Rex{nothing(), one('a'), in('a', 'b')})
 	for _, x := range parts {
 		for _, y := range parts {

@@ -5,6 +5,7 @@ import (
 	"testing"
 
 	"bramble/api"
+	"bramble/sample"
 )
 
 // dot is any letter but 10.
@@ -441,7 +442,7 @@ func TestParseOfNothingAtTheDeepest(t *testing.T) {
 // Where a fault is told: what stands ahead of it may go on, and nothing behind it plays a part.
 func TestFaultsStandFirst(t *testing.T) {
 	more := []string{"a", ")", "]", "*", "|", "\xff"}
-	for _, s := range texts([]string{"a", "(", ")", "[", "]", "*", "|", `\`, "-", "^", "d", "é", "\xff"}, 5) {
+	for _, s := range sample.Texts([]string{"a", "(", ")", "[", "]", "*", "|", `\`, "-", "^", "d", "é", "\xff"}, 5) {
 		x, f := Parse(s)
 		if f.Err == api.OK {
 			if f.At != 0 || !Fit(x) {
@@ -471,9 +472,9 @@ func TestFaultsStandFirst(t *testing.T) {
 
 // A text that falls short can be ended: by what it waits for.
 func TestShortCanBeEnded(t *testing.T) {
-	ends := texts([]string{")", "]", "é", "~"}, 5)
+	ends := sample.Texts([]string{")", "]", "é", "~"}, 5)
 search:
-	for _, s := range texts([]string{"a", "(", "[", "|", `\`, "-", "^"}, 4) {
+	for _, s := range sample.Texts([]string{"a", "(", "[", "|", `\`, "-", "^"}, 4) {
 		if _, f := Parse(s); f.Err != api.ErrShort {
 			continue
 		}

@@ -5,6 +5,7 @@ import (
 	"testing"
 
 	"bramble/api"
+	"bramble/sample"
 )
 
 func TestPlainTold(t *testing.T) {
@@ -64,7 +65,7 @@ func TestPlainErrors(t *testing.T) {
 
 // The one text of a plain expression is the text it is of.
 func TestPlainIsTheTextAlone(t *testing.T) {
-	all := texts([]string{"a", "b", "(", "é", "\n"}, 3)
+	all := sample.Texts([]string{"a", "b", "(", "é", "\n"}, 3)
 	for _, s := range all[1:] {
 		x, err := Plain(s)
 		if err != api.OK {

@@ -6,6 +6,7 @@ import (
 	"testing"
 
 	"bramble/api"
+	"bramble/sample"
 )
 
 func TestPrintTold(t *testing.T) {
@@ -206,7 +207,7 @@ func TestThereAndBackOfDrawn(t *testing.T) {
 
 // What Parse tells is fit, and read again as it was, for every text of few signs.
 func TestWhatIsReadIsFit(t *testing.T) {
-	for _, s := range texts([]string{"a", "(", ")", "[", "]", "*", "?", "|", `\`, ".", "-", "^", "d", "€"}, 4) {
+	for _, s := range sample.Texts([]string{"a", "(", ")", "[", "]", "*", "?", "|", `\`, ".", "-", "^", "d", "€"}, 4) {
 		if x, f := Parse(s); f.Err == api.OK {
 			back(t, x)
 		}

@@ -53,21 +53,6 @@ func smalls() []api.Rex {
 	return append(all, wide, star(in('a', 'b')), cat(wide, in('a', 'a', 'c', 'z'), wide), in('(', '(', '-', '-', '[', '^'))
 }
 
-// texts is every text of at most n of the parts, the shorter ones first.
-func texts(parts []string, n int) []string {
-	all := []string{""}
-	for from := 0; n > 0; n-- {
-		to := len(all)
-		for _, s := range all[from:to] {
-			for _, p := range parts {
-				all = append(all, s+p)
-			}
-		}
-		from = to
-	}
-	return all
-}
-
 // copied is an expression in memory of its own.
 func copied(x api.Rex) api.Rex {
 	y := api.Rex{Op: x.Op, Set: slices.Clone(x.Set)}
