@@ -8,6 +8,7 @@ import (
 	"testing"
 
 	"bramble/api"
+	"bramble/sample"
 )
 
 // ofFirst is what is told of the first rule: whether it can be empty, and the names of those that it can be alone, as they come.
@@ -172,16 +173,6 @@ func TestEmptyAndAloneBesideErrors(t *testing.T) {
 	}
 }
 
-// roomy is a part in memory of its own, with room behind its lists, so that one that grows in place is seen.
-func roomy(x api.Gx) api.Gx {
-	subs := make([]api.Gx, 0, len(x.Subs)+2)
-	for _, sub := range x.Subs {
-		subs = append(subs, roomy(sub))
-	}
-	x.Subs = subs
-	return x
-}
-
 // shown is all that a part has, and what lies behind its lists.
 func shown(x api.Gx) string {
 	s := fmt.Sprint(x.Op, " ", x.Name, x.Num, len(x.Subs))
@@ -213,7 +204,7 @@ func TestArgumentsStay(t *testing.T) {
 		g.Tokens = slices.Grow(g.Tokens, 3)
 		g.Rules = slices.Grow(g.Rules, 3)
 		for i := range g.Rules {
-			g.Rules[i].Body = roomy(g.Rules[i].Body)
+			g.Rules[i].Body = sample.Roomy(g.Rules[i].Body)
 		}
 		was := shownGram(g)
 		Check(g)
@@ -226,7 +217,7 @@ func TestArgumentsStay(t *testing.T) {
 			t.Errorf("%s has changed", lines)
 		}
 	}
-	x := roomy(api.Gx{Op: 99, Name: "z", Num: 7, Subs: []api.Gx{named("c", named("b"), named("a")), named("c"), {}}})
+	x := sample.Roomy(api.Gx{Op: 99, Name: "z", Num: 7, Subs: []api.Gx{named("c", named("b"), named("a")), named("c"), {}}})
 	was := shown(x)
 	Uses(x)
 	if shown(x) != was {

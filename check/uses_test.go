@@ -8,6 +8,7 @@ import (
 
 	"bramble/api"
 	"bramble/gram"
+	"bramble/sample"
 )
 
 // body is a right side of a rule.
@@ -117,28 +118,9 @@ func TestUsesOfManyParts(t *testing.T) {
 	}
 }
 
-// endless is parts that hold themselves, or so many others that none could go through them all.
-func endless() []api.Gx {
-	var all []api.Gx
-	for op := -1; op <= api.NumGxs; op++ {
-		loop := make([]api.Gx, 2)
-		loop[0] = api.Gx{Op: op, Name: "n", Subs: loop}
-		loop[1] = api.Gx{Op: op, Name: "n", Subs: loop[:1]}
-		deep, wide := named("a"), named("a")
-		for range 1 << 16 {
-			deep = api.Gx{Op: op, Name: "n", Subs: []api.Gx{deep}}
-		}
-		for range 60 {
-			wide = api.Gx{Op: op, Name: "n", Subs: []api.Gx{wide, wide}}
-		}
-		all = append(all, loop[0], loop[1], deep, wide)
-	}
-	return all
-}
-
 // Of what has too many parts no promise is made but that the calls end.
 func TestEndlessEnds(t *testing.T) {
-	for _, x := range endless() {
+	for _, x := range sample.Endless() {
 		Uses(x)
 		g := api.Gram{Name: "g", Rules: []api.Rule{{Name: "a", Body: named("b")}, {Name: "b", Body: x}}}
 		if err, place := Check(g); err != api.ErrState || place != 0 {

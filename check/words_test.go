@@ -251,7 +251,7 @@ func TestByWordsOfThreeRules(t *testing.T) {
 
 // drawnBody is a body that is drawn, of few kinds within one another; a name that nothing has, and one of a token between others, are rare.
 func drawnBody(seed *sample.Seed, depth int) api.Gx {
-	if depth == 0 || seed.Below(3) == 0 {
+	return sample.Part(seed, depth, func() api.Gx {
 		switch seed.Below(40) {
 		case 0:
 			return named("n")
@@ -260,21 +260,7 @@ func drawnBody(seed *sample.Seed, depth int) api.Gx {
 		}
 		leaves := []api.Gx{named("a"), named("b"), named("c"), named("_d"), named("t"), {Op: api.GxLit, Name: "a"}, {Op: api.GxCat}, {Op: api.GxCat}}
 		return leaves[seed.Below(len(leaves))]
-	}
-	x := api.Gx{Op: api.GxCat + seed.Below(api.NumGxs-api.GxCat)}
-	many := 1
-	switch x.Op {
-	case api.GxCat, api.GxAlt:
-		many = 2 + seed.Below(2)
-	case api.GxField, api.GxAlias:
-		x.Name = "a"
-	case api.GxPrec:
-		x.Num = seed.Below(9) - 4
-	}
-	for range many {
-		x.Subs = append(x.Subs, drawnBody(seed, depth-1))
-	}
-	return x
+	})
 }
 
 // drawnToken is a token of a name, by an expression that can be empty (rarely), by one that can't, or by a program.

@@ -196,32 +196,12 @@ func spoilGram(g api.Gram) {
 	}
 }
 
-// roomy is a body with room behind its lists, so that one that grows in place is seen.
-func roomy(x api.Gx) api.Gx {
-	y := x
-	y.Subs = make([]api.Gx, 0, len(x.Subs)+2)
-	for _, sub := range x.Subs {
-		y.Subs = append(y.Subs, roomy(sub))
-	}
-	return y
-}
-
-// roomStays tells whether what lies behind the lists is as roomy left it.
-func roomStays(x api.Gx) bool {
-	for _, behind := range x.Subs[len(x.Subs):cap(x.Subs)] {
-		if !sameBody(behind, api.Gx{}) {
-			return false
-		}
-	}
-	return !slices.ContainsFunc(x.Subs, func(sub api.Gx) bool { return !roomStays(sub) })
-}
-
 func TestArgumentsStay(t *testing.T) {
 	for _, x := range append(smalls(), star(cat(name("a"))), api.Gx{Op: 99, Subs: []api.Gx{{}}}) {
-		y := roomy(x)
+		y := sample.Roomy(x)
 		Text(y)
 		FitBody(y)
-		if !sameBody(x, y) || !roomStays(y) {
+		if !sameBody(x, y) || !sample.RoomStays(y) {
 			t.Fatalf("%v has changed to %v", x, y)
 		}
 		g := small()
@@ -231,7 +211,7 @@ func TestArgumentsStay(t *testing.T) {
 		Print(g)
 		Fit(g)
 		Same(g, was)
-		if !Same(g, was) || !roomStays(y) {
+		if !Same(g, was) || !sample.RoomStays(y) {
 			t.Fatalf("%v has changed to %v", was, g)
 		}
 		for _, behind := range g.Rules[2:9] {
