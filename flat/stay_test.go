@@ -20,17 +20,6 @@ func roomyGram(g api.Gram) api.Gram {
 	return g
 }
 
-// roomyFlat is a plain grammar in memory of its own, with room behind its lists.
-func roomyFlat(f api.Flat) api.Flat {
-	f.Terms = slices.Grow(slices.Clone(f.Terms), 3)
-	f.Nons = slices.Grow(slices.Clone(f.Nons), 3)
-	f.Prods = slices.Grow(slices.Clone(f.Prods), 3)
-	for i, p := range f.Prods {
-		f.Prods[i].Right = slices.Grow(slices.Clone(p.Right), 3)
-	}
-	return f
-}
-
 // wholeGram is all that a grammar has, and what lies behind its lists.
 func wholeGram(g api.Gram) string {
 	return fmt.Sprintf("%#v %#v %#v", g, g.Tokens[:cap(g.Tokens)], g.Rules[:cap(g.Rules)])
@@ -66,10 +55,10 @@ func TestArgumentsStay(t *testing.T) {
 		if err != api.OK {
 			continue
 		}
-		for _, f := range []api.Flat{roomyFlat(f), roomyFlat(small())} {
+		for _, f := range []api.Flat{sample.RoomyFlat(f), sample.RoomyFlat(small())} {
 			was := wholeFlat(f)
 			Fit(f)
-			Same(f, roomyFlat(f))
+			Same(f, sample.RoomyFlat(f))
 			Same(f, f)
 			Show(f)
 			for sym := -1; sym < 9; sym++ {
