@@ -28,6 +28,15 @@ func FlatOf(terms, nons, prods string) api.Flat {
 	return f
 }
 
+// Items is items of symbols, without Fields and Aliases.
+func Items(syms ...int) []api.Item {
+	var l []api.Item
+	for _, sym := range syms {
+		l = append(l, api.Item{Sym: sym})
+	}
+	return l
+}
+
 // Symbols is a plain grammar of so many terminals, t0 and on, and so many others, n0 and on, without productions.
 func Symbols(terms, nons int) api.Flat {
 	var f api.Flat
@@ -114,6 +123,23 @@ func RoomyFlat(f api.Flat) api.Flat {
 		made.Prods[i].Right = RoomyList(p.Right)
 	}
 	return made
+}
+
+// DressedFlat is a plain grammar of the same symbols' numbers, with other names, that stand more than once, and with Fields, Aliases and Precs.
+func DressedFlat(f api.Flat) api.Flat {
+	f = RoomyFlat(f)
+	for i, p := range f.Prods {
+		f.Prods[i].Prec = 10000 - 20000*(i%2)
+		for k := range p.Right {
+			p.Right[k].Field, p.Right[k].Alias = "f", "_g"
+		}
+	}
+	for _, l := range [][]string{f.Terms, f.Nons} {
+		for i := range l {
+			l[i] = "#1"
+		}
+	}
+	return f
 }
 
 // FlatRoomStays tells whether what lies behind the lists is as RoomyFlat left it.

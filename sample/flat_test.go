@@ -137,3 +137,43 @@ func TestRoomyFlat(t *testing.T) {
 		t.Error("memory is shared")
 	}
 }
+
+func TestItems(t *testing.T) {
+	if got := Items(3, -1, 3); !slices.Equal(got, []api.Item{{Sym: 3}, {Sym: -1}, {Sym: 3}}) {
+		t.Errorf("%v", got)
+	}
+	if got := Items(); got != nil {
+		t.Errorf("%v of none", got)
+	}
+}
+
+func TestOddFlats(t *testing.T) {
+	most, wrong := api.Flat{}, 0
+	for _, f := range OddFlats() {
+		most.Terms, most.Nons, most.Prods = longer(most.Terms, f.Terms), longer(most.Nons, f.Nons), longer(most.Prods, f.Prods)
+		if !rising(f) {
+			wrong++
+		}
+	}
+	if len(most.Terms) != 100000 || len(most.Nons) != 100000 || len(most.Prods) != 200000 || wrong < 20 {
+		t.Errorf("at most %d terminals, %d others, %d productions; %d with a wrong number", len(most.Terms), len(most.Nons), len(most.Prods), wrong)
+	}
+}
+
+func longer[T any](a, b []T) []T {
+	if len(a) < len(b) {
+		return b
+	}
+	return a
+}
+
+func TestDressedFlat(t *testing.T) {
+	f := FlatOf("x y", "a", "a -> x a; a ->")
+	was := fmt.Sprint(f)
+	want := api.Flat{Terms: []string{"#1", "#1"}, Nons: []string{"#1"}, Prods: []api.Prod{
+		{Left: 2, Right: []api.Item{{Sym: 0, Field: "f", Alias: "_g"}, {Sym: 2, Field: "f", Alias: "_g"}}, Prec: 10000}, {Left: 2, Right: []api.Item{}, Prec: -10000},
+	}}
+	if got := DressedFlat(f); !reflect.DeepEqual(got, want) || fmt.Sprint(f) != was {
+		t.Errorf("%v, not %v; %v was %s", got, want, f, was)
+	}
+}

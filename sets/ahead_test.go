@@ -5,17 +5,8 @@ import (
 	"slices"
 	"testing"
 
-	"bramble/api"
+	"bramble/sample"
 )
-
-// items is items of symbols.
-func items(syms ...int) []api.Item {
-	var l []api.Item
-	for _, sym := range syms {
-		l = append(l, api.Item{Sym: sym})
-	}
-	return l
-}
 
 // P10.4.
 func TestAhead(t *testing.T) {
@@ -62,7 +53,7 @@ func TestAhead(t *testing.T) {
 		{"behind, far off", []int{4}, []int{math.MaxInt, math.MinInt, 1}, []int{math.MinInt, 1, 2, math.MaxInt}},
 		{"behind, that plays no part", []int{4, 3}, []int{math.MaxInt, math.MinInt, 1, 1}, []int{2, 3}},
 	} {
-		if got := Ahead(f, items(c.l...), c.behind); !slices.Equal(got, c.want) {
+		if got := Ahead(f, sample.Items(c.l...), c.behind); !slices.Equal(got, c.want) {
 			t.Errorf("%s: %v, not %v", c.what, got, c.want)
 		}
 	}
@@ -83,12 +74,12 @@ func TestAheadWithoutTerminals(t *testing.T) {
 		{[]int{0, 1}, []int{0}, nil},
 		{[]int{2, -1}, []int{0}, []int{0}},
 	} {
-		if got := Ahead(f, items(c.l...), c.behind); !slices.Equal(got, c.want) {
+		if got := Ahead(f, sample.Items(c.l...), c.behind); !slices.Equal(got, c.want) {
 			t.Errorf("%v, behind %v: %v, not %v", c.l, c.behind, got, c.want)
 		}
 	}
 	f = plain(t, "", "a", "")
-	if got := Ahead(f, items(0), []int{3}); len(got) != 0 {
+	if got := Ahead(f, sample.Items(0), []int{3}); len(got) != 0 {
 		t.Errorf("without productions: %v", got)
 	}
 	if got := Ahead(f, nil, []int{3, 1}); !slices.Equal(got, []int{1, 3}) {
@@ -100,21 +91,21 @@ func TestAheadWithoutTerminals(t *testing.T) {
 func TestAheadOfManyItems(t *testing.T) {
 	f := plain(t, "x y", "e n", "e ->; e -> y; n ->")
 	for _, many := range []int{63, 64, 65, 1000, 100000} {
-		l := slices.Repeat(items(3, -1, 9), many)
+		l := slices.Repeat(sample.Items(3, -1, 9), many)
 		if got := Ahead(f, l, []int{2}); !slices.Equal(got, []int{2}) {
 			t.Errorf("%d of nothing: %v", len(l), got)
 		}
-		if got := Ahead(f, append(l, items(2)...), []int{2}); !slices.Equal(got, []int{1, 2}) {
+		if got := Ahead(f, append(l, sample.Items(2)...), []int{2}); !slices.Equal(got, []int{1, 2}) {
 			t.Errorf("%d of nothing, and one: %v", len(l), got)
 		}
-		if got := Ahead(f, append(l, items(2, 0)...), []int{2}); !slices.Equal(got, []int{0, 1}) {
+		if got := Ahead(f, append(l, sample.Items(2, 0)...), []int{2}); !slices.Equal(got, []int{0, 1}) {
 			t.Errorf("%d of nothing, and two: %v", len(l), got)
 		}
 		numbers := make([]int, many)
 		for i := range numbers {
 			numbers[i] = many - i
 		}
-		if got := Ahead(f, items(2), numbers); len(got) != many || got[0] != 1 || got[many-1] != many || !slices.IsSorted(got) {
+		if got := Ahead(f, sample.Items(2), numbers); len(got) != many || got[0] != 1 || got[many-1] != many || !slices.IsSorted(got) {
 			t.Errorf("%d numbers behind: %v", many, got)
 		}
 	}

@@ -62,9 +62,9 @@ func TestLongestChains(t *testing.T) {
 		sym, term := terms+i, api.Item{Sym: i % terms}
 		down.Prods = append(down.Prods, api.Prod{Left: sym, Right: []api.Item{{Sym: min(sym+1, last)}, term}})
 		up.Prods = append(up.Prods, api.Prod{Left: sym, Right: []api.Item{{Sym: max(sym-1, terms)}, term}})
-		none.Prods = append(none.Prods, api.Prod{Left: sym, Right: items(sym + 1)})
+		none.Prods = append(none.Prods, api.Prod{Left: sym, Right: sample.Items(sym + 1)})
 	}
-	down.Prods[nons-1].Right, up.Prods[0].Right, none.Prods[nons-1].Right = items(7), items(9), nil
+	down.Prods[nons-1].Right, up.Prods[0].Right, none.Prods[nons-1].Right = sample.Items(7), sample.Items(9), nil
 	hold(t, "down", down, func(int) []int { return only(7) }, func(sym int) []int {
 		if sym == terms {
 			return only(terms)
@@ -87,7 +87,7 @@ func TestLongestChains(t *testing.T) {
 	}
 	holdAll(t, "of nothing", none, Empty(none), false, true)
 	holdAll(t, "of nothing", none, Useful(none), true, true)
-	none.Prods[nons-1].Right = items(last)
+	none.Prods[nons-1].Right = sample.Items(last)
 	holdAll(t, "with no way out", none, Empty(none), false, false)
 	holdAll(t, "with no way out", none, Useful(none), true, false)
 }
@@ -99,10 +99,10 @@ func TestEachNumberOfTerminals(t *testing.T) {
 		f.Prods = []api.Prod{{Left: terms}}
 		from := max(0, terms-399)
 		for term := from; term < terms; term++ {
-			f.Prods = append(f.Prods, api.Prod{Left: terms, Right: items(terms, term)})
+			f.Prods = append(f.Prods, api.Prod{Left: terms, Right: sample.Items(terms, term)})
 		}
 		hold(t, "terminals", f, func(int) []int { return numbers(from, terms) }, func(int) []int { return numbers(from, terms+1) })
-		if got := Ahead(f, items(terms), []int{terms}); !slices.Equal(got, numbers(from, terms+1)) {
+		if got := Ahead(f, sample.Items(terms), []int{terms}); !slices.Equal(got, numbers(from, terms+1)) {
 			t.Errorf("%d terminals: Ahead is %v", terms, got)
 		}
 	}
@@ -111,9 +111,9 @@ func TestEachNumberOfTerminals(t *testing.T) {
 // 64 items: the first 63 can be empty, or all, or none but those behind the first.
 func TestMostItems(t *testing.T) {
 	f := sample.Symbols(63, 64)
-	f.Prods = []api.Prod{{Left: 63, Right: append(items(numbers(64, 127)...), items(0)...)}}
+	f.Prods = []api.Prod{{Left: 63, Right: append(sample.Items(numbers(64, 127)...), sample.Items(0)...)}}
 	for i := range 63 {
-		f.Prods = append(f.Prods, api.Prod{Left: 64 + i}, api.Prod{Left: 64 + i, Right: items(62 - i)})
+		f.Prods = append(f.Prods, api.Prod{Left: 64 + i}, api.Prod{Left: 64 + i, Right: sample.Items(62 - i)})
 	}
 	first := func(sym int) []int {
 		if sym == 63 {
@@ -158,63 +158,28 @@ func TestGreatest(t *testing.T) {
 		for _, most := range []int{64, 3, 1} {
 			f := sample.Flat(&seed, sample.Symbols(c.terms, c.nons), 400, most)
 			agree(t, f)
-			f.Prods[0].Right = slices.Repeat(items(c.terms), 64)
+			f.Prods[0].Right = slices.Repeat(sample.Items(c.terms), 64)
 			agree(t, f)
 			agreeAhead(t, &seed, f)
 		}
 	}
 	full := sample.Symbols(200, 400)
 	for i := range 400 {
-		full.Prods = append(full.Prods, api.Prod{Left: 200 + i, Right: append(slices.Repeat(items(min(599, 201+i)), 63), items(i%200)...)})
+		full.Prods = append(full.Prods, api.Prod{Left: 200 + i, Right: append(slices.Repeat(sample.Items(min(599, 201+i)), 63), sample.Items(i%200)...)})
 	}
 	full.Prods[399].Right = nil
 	agree(t, full)
 	agreeAhead(t, &seed, full)
 }
 
-// unfit is plain grammars of which nothing is promised but that the calls end.
-func unfit() []api.Flat {
-	all := []api.Flat{
-		{},
-		{Terms: []string{"x"}},
-		{Prods: []api.Prod{{}}},
-		{Terms: []string{"x"}, Prods: []api.Prod{{Left: 0, Right: items(0)}}},
-		{Terms: []string{"x"}, Prods: []api.Prod{{Left: 1, Right: items(0)}}},
-		{Terms: []string{""}, Nons: []string{""}, Prods: []api.Prod{{Left: 1, Right: []api.Item{{Sym: 0, Field: " "}}, Prec: math.MaxInt}}},
-		sample.FlatOf("x", "a b", "b -> a; a -> b; b -> x; a ->"),
-	}
-	for _, sym := range []int{0, 1, 2, 3, 4, -1, 64, 600, math.MaxInt, math.MinInt, math.MaxInt32, math.MinInt32} {
-		for at := range 3 {
-			f := sample.FlatOf("x y", "a b", "a -> b x; b ->; b -> a y b")
-			f.Prods[at].Left = sym
-			g := sample.FlatOf("x y", "a b", "a -> b x; b -> y; b -> a y b")
-			g.Prods[at].Right[len(g.Prods[at].Right)-1].Sym = sym
-			all = append(all, f, g)
-		}
-	}
-	for _, many := range []int{65, 401, 601, 100000} {
-		f, g := sample.Symbols(0, many), sample.Symbols(many, 1)
-		for i := range many {
-			f.Prods = append(f.Prods, api.Prod{Left: i, Right: items(min(i+1, many-1))})
-			g.Prods = append(g.Prods, api.Prod{Left: many, Right: items(many, i)})
-		}
-		f.Prods[many-1].Right = nil
-		all = append(all, f, g,
-			api.Flat{Nons: []string{"a"}, Prods: slices.Repeat([]api.Prod{{}, {Right: items(0, 0)}}, many)},
-			api.Flat{Terms: []string{"x"}, Nons: []string{"a"}, Prods: []api.Prod{{Left: 1, Right: slices.Repeat(items(1, 0), many)}}},
-			sample.Symbols(many, many), sample.Symbols(0, many), sample.Symbols(many, 0))
-	}
-	return all
-}
-
 // 0.1: whatever a call is given, it ends.
 func TestUnfit(t *testing.T) {
-	for _, f := range unfit() {
+	for _, f := range sample.OddFlats() {
 		Empty(f)
 		Useful(f)
 		First(f)
 		Follow(f)
-		for _, l := range [][]api.Item{nil, items(0), items(1, 2, 3), items(-1, math.MinInt, math.MaxInt, 600), items(599, 600, 100000)} {
+		for _, l := range [][]api.Item{nil, sample.Items(0), sample.Items(1, 2, 3), sample.Items(-1, math.MinInt, math.MaxInt, 600), sample.Items(599, 600, 100000)} {
 			for _, behind := range [][]int{nil, {0}, {math.MaxInt, -1, math.MinInt, -1}} {
 				Ahead(f, l, behind)
 			}

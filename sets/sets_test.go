@@ -313,18 +313,7 @@ func TestFollow(t *testing.T) {
 func TestOnlySymbolsCount(t *testing.T) {
 	for _, c := range plainCases() {
 		f := plain(t, c.terms, c.nons, c.prods)
-		g := sample.RoomyFlat(f)
-		for i, p := range g.Prods {
-			g.Prods[i].Prec = 10000 - 20000*(i%2)
-			for k := range p.Right {
-				p.Right[k].Field, p.Right[k].Alias = "f", "_g"
-			}
-		}
-		for _, l := range [][]string{g.Terms, g.Nons} {
-			for i := range l {
-				l[i] = "#1"
-			}
-		}
+		g := sample.DressedFlat(f)
 		if !flat.Fit(g) {
 			t.Fatalf("%s: not fit", c.what)
 		}

@@ -73,7 +73,7 @@ func TestAnswersShareNothing(t *testing.T) {
 // What Ahead tells is none of what it was given, and is told again.
 func TestAheadSharesNothing(t *testing.T) {
 	f := plain(t, "x y", "a", "a ->; a -> y")
-	for _, l := range [][]api.Item{nil, items(2), items(2, 9, 2), items(0), items(2, 1)} {
+	for _, l := range [][]api.Item{nil, sample.Items(2), sample.Items(2, 9, 2), sample.Items(0), sample.Items(2, 1)} {
 		behind := sample.RoomyList([]int{0, 1, 2})
 		want := Ahead(f, l, behind)
 		spoil(Ahead(f, l, behind))
