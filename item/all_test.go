@@ -62,23 +62,6 @@ func TestAll(t *testing.T) {
 	}
 }
 
-// rowsOf is a plain grammar that has so many sets: the whole comes of rows that each begin with a terminal of their own, so that there is a set for each of their items, one for the whole, and the first one. If they end with the whole, too, they lead to one another again.
-func rowsOf(sets int, again bool) api.Flat {
-	const most = 64
-	left := sets - 2
-	many := (left + most - 1) / most
-	f := sample.Symbols(many+1, 1)
-	for i := range many {
-		right := append(sample.Items(i), slices.Repeat(sample.Items(many), min(left, most)-1)...)
-		left -= len(right)
-		if again && len(right) > 1 {
-			right[len(right)-1].Sym = many + 1
-		}
-		f.Prods = append(f.Prods, api.Prod{Left: many + 1, Right: right})
-	}
-	return f
-}
-
 // holdMany fails where All tells another number of sets, or none where it should tell that there are too many.
 func holdMany(t *testing.T, what string, f api.Flat, want int) {
 	t.Helper()
@@ -95,8 +78,8 @@ func holdMany(t *testing.T, what string, f api.Flat, want int) {
 // P11.4: just 600 sets, and more.
 func TestAllOfManySets(t *testing.T) {
 	for _, many := range []int{2, 3, 66, 67, 255, 256, 257, 599, 600, 601, 602, 700, 5000} {
-		holdMany(t, "rows", rowsOf(many, false), many)
-		holdMany(t, "rows that lead to one another", rowsOf(many, true), many)
+		holdMany(t, "rows", sample.FlatOfSets(many, false), many)
+		holdMany(t, "rows that lead to one another", sample.FlatOfSets(many, true), many)
 	}
 }
 

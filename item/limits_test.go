@@ -10,19 +10,9 @@ import (
 	"bramble/sample"
 )
 
-// leftOnes is the greatest plain grammar of which each item is begun ahead of all terminals: the whole comes of itself and a terminal, one after another.
-func leftOnes() api.Flat {
-	f := sample.Symbols(399, 1)
-	for term := range 399 {
-		f.Prods = append(f.Prods, api.Prod{Left: 399, Right: sample.Items(399, term)})
-	}
-	f.Prods = append(f.Prods, api.Prod{Left: 399})
-	return f
-}
-
 // Some 160000 items of one set, each of them begun by 400 others.
 func TestGreatestClosure(t *testing.T) {
-	f := leftOnes()
+	f := sample.LeftOnes()
 	mustFit(t, f)
 	want := []api.Lr{{Prod: -1, Look: 399}}
 	for prod := range 400 {
