@@ -56,11 +56,14 @@ func TestAhead(t *testing.T) {
 		{"Kids not as many, those that both have alike", w(0, 2, w(0, 1), w(0, 2)), w(0, 2, w(0, 1)), 0},
 		{"Kids not as many, none and some", w(0, 2), w(0, 2, w(0, 1)), 0},
 		{"Kids not as many, those that both have differ", w(0, 2, w(0, 1)), w(0, 2, w(1, 1), w(0, 2), w(0, 2)), 1},
-		{"Kids not as many, in a kid, then another one", w(0, 2, w(0, 1), w(0, 2)), w(0, 2, w(0, 1, w(0, 1)), w(0, 1)), 1},
+		{"Kids not as many, a kid that only one has counts more", w(0, 2, w(0, 1)), w(0, 2, w(0, 1), w(2, 2)), 2},
+		{"Kids of a first kid not as many, those that both have differ", w(0, 2, w(0, 1, w(1, 1)), w(0, 1)), w(0, 2, w(0, 1, w(0, 1), w(0, 1)), w(0, 2)), 2},
 		{"symbols play no part", by(0, 0, 0, 1), by(0, 1, 0, 1), 0},
-		{"kids' symbols play no part", w(0, 2, by(0, 1, 0, 1), w(0, 2)), w(0, 2, by(0, 0, 0, 1), w(1, 2)), 1},
-		{"kids' From play no part", w(0, 2, by(0, 1, 0, 1), w(0, 2)), w(0, 2, by(0, 1, 1, 1), w(1, 2)), 1},
+		{"symbols play no part, kids that differ", by(0, 0, 0, 1, w(0, 1)), by(0, 1, 0, 1, w(0, 2)), 2},
+		{"From plays no part", by(0, 1, 0, 1), by(0, 1, 1, 1), 0},
 		{"Junk plays no part", api.Der{Prod: 0, Junk: 1}, api.Der{Prod: 0, Junk: 2}, 0},
+		{"first kids that differ in Junk, then one that ends later", api.Der{Kids: []api.Der{{Prod: -1, To: 1}, {To: 1}}}, api.Der{Kids: []api.Der{{Prod: -1, To: 1, Junk: 1}, {}}}, 0},
+		{"an empty list is none, then a kid that ends later", w(0, 2, w(0, 1, []api.Der{}...), w(0, 2)), w(0, 2, w(0, 1), w(0, 1)), 1},
 		{"terminals", leaf(0, 0), leaf(0, 0), 0},
 		{"a terminal and a way", leaf(0, 0), w(0, 1), 1},
 		{"nothing and nothing", api.Der{}, api.Der{}, 0},
@@ -75,6 +78,83 @@ func TestAhead(t *testing.T) {
 	}
 }
 
+// unlike is two ways each that differ in what the order does not look at, so that neither is ahead, by what that is.
+func unlike() map[string][2]api.Der {
+	d := by(0, 1, 0, 1, by(0, 1, 0, 1))
+	symbol, from, junk, more, fewer := d, d, d, d, d
+	symbol.Sym, from.From, junk.Junk = 0, 1, 1
+	more.Kids = []api.Der{d.Kids[0], d.Kids[0]}
+	fewer.Kids = nil
+	return map[string][2]api.Der{
+		"the symbol":          {d, symbol},
+		"From":                {d, from},
+		"Junk":                {d, junk},
+		"a kid more":          {d, more},
+		"a kid fewer":         {d, fewer},
+		"the symbol and Junk": {symbol, junk},
+	}
+}
+
+// P15.1: kids that differ decide, though neither of them is ahead: those behind them play no part, but for what they count.
+func TestAheadByFirstKidsThatDiffer(t *testing.T) {
+	f := counts()
+	w := func(prod, to int, kids ...api.Der) api.Der { return by(prod, 1, 0, to, kids...) }
+	behind := map[string][2]api.Der{
+		"ends later":               {w(0, 2), w(0, 1)},
+		"has the less Prod":        {w(0, 2), w(1, 2)},
+		"has a kid that is ahead":  {w(0, 2, w(0, 2)), w(0, 2, w(0, 1))},
+		"ends later, counts alike": {w(2, 2), w(2, 1)},
+	}
+	for what, pair := range unlike() {
+		for deep := range 4 {
+			for _, ahead := range []int{0, 1} {
+				one, two := pair[ahead], pair[1-ahead]
+				for why, last := range behind {
+					a, b := w(0, 3, one, last[0]), w(0, 3, two, last[1])
+					if Ahead(f, a, b) || Ahead(f, b, a) {
+						t.Errorf("kids %d deep differ in %s: one is ahead by a kid behind them that %s", deep, what, why)
+					}
+					a, b = w(0, 3, w(0, 1), one, one, last[0]), w(0, 3, w(0, 1), two, one, last[1])
+					if Ahead(f, a, b) || Ahead(f, b, a) {
+						t.Errorf("second kids %d deep differ in %s: one is ahead by a kid behind them that %s", deep, what, why)
+					}
+					a, b = w(0, 3, one, last[0]), w(0, 3, one, last[1])
+					if !Ahead(f, a, b) || Ahead(f, b, a) {
+						t.Errorf("kids that are alike, %s of one: none is ahead by a kid behind them that %s", what, why)
+					}
+					a, b = w(0, 3, last[0], one), w(0, 3, last[1], two)
+					if !Ahead(f, a, b) || Ahead(f, b, a) {
+						t.Errorf("kids %d deep differ in %s: none is ahead by a kid ahead of them that %s", deep, what, why)
+					}
+				}
+				a, b := w(0, 3, one, w(2, 1)), w(0, 3, two, w(0, 2))
+				if !Ahead(f, a, b) || Ahead(f, b, a) {
+					t.Errorf("kids %d deep differ in %s: the one that counts more is not ahead", deep, what)
+				}
+			}
+			for i, d := range pair {
+				pair[i] = w(0, 1, w(0, 1), d, w(0, 1))
+			}
+		}
+	}
+}
+
+// change is a way of which some parts are others in one thing each.
+func change(seed *sample.Seed, d api.Der) api.Der {
+	d = sample.RoomyWay(d)
+	parts := sample.PartsOf(&d)
+	some := func() *api.Der { return parts[seed.Below(len(parts))] }
+	some().To += seed.Below(3) - 1
+	some().Prod += seed.Below(3) - 1
+	some().Sym += seed.Below(3) - 1
+	some().From += max(0, seed.Below(4)-2)
+	some().Junk += max(0, seed.Below(4)-2)
+	if one := some(); len(one.Kids) > 0 && seed.Below(4) == 0 {
+		one.Kids = one.Kids[:len(one.Kids)-1]
+	}
+	return d
+}
+
 // P15.1: any two ways.
 func TestDrawnAhead(t *testing.T) {
 	f := counts()
@@ -84,11 +164,7 @@ func TestDrawnAhead(t *testing.T) {
 		a := sample.AnyWay(&seed, 1+seed.Below(8))
 		b := sample.AnyWay(&seed, 1+seed.Below(8))
 		if seed.Below(4) > 0 { // else they hardly ever have kids that are alike
-			b = sample.RoomyWay(a)
-			parts := sample.PartsOf(&b)
-			parts[seed.Below(len(parts))].To += seed.Below(3) - 1
-			parts[seed.Below(len(parts))].Prod += seed.Below(3) - 1
-			parts[seed.Below(len(parts))].Sym += seed.Below(3) - 1
+			b = change(&seed, a)
 		}
 		if Prec(f, a) != precByWords(f, a) || Prec(f, b) != precByWords(f, b) {
 			t.Fatalf("%v, %v: Prec: %d, %d", a, b, Prec(f, a), Prec(f, b))

@@ -85,23 +85,27 @@ func fitsProd(f api.Flat, l []int, d api.Der) bool {
 	return at == d.To
 }
 
-// rank is how two ways stand to one another: what each of them counts, and which is ahead: the first one, if that is above 0, the second one, if it is below.
+// rank is how two ways stand to one another: what each of them counts; which is ahead: the first one, if that is above 0, the second one, if it is below; and whether they are alike, in what the order does not look at, too.
 type rank struct {
 	first  int
 	second int
 	ahead  int
+	alike  bool
 }
 
-// compare is two ways held against one another, part by part at once, so that none is gone through again for each that it lies in. What the order does not look at (a symbol, From, Junk, a kid that only one has) makes no kids differ.
+// compare is two ways held against one another, part by part at once, so that none is gone through again for each that it lies in.
 func compare(f api.Flat, a, b api.Der) rank {
-	r := rank{first: ownCount(f, a), second: ownCount(f, b)}
+	r := rank{first: ownCount(f, a), second: ownCount(f, b), alike: alikeButKids(a, b) && len(a.Kids) == len(b.Kids)}
 	both := min(len(a.Kids), len(b.Kids))
-	kids := 0
+	decided, kids := false, 0
 	for i := range both {
 		kid := compare(f, a.Kids[i], b.Kids[i])
 		r.first += kid.first
 		r.second += kid.second
-		kids = cmp.Or(kids, cmp.Compare(a.Kids[i].To, b.Kids[i].To), kid.ahead)
+		// Of the first kids that differ neither may be ahead: those behind them play no part all the same.
+		if !kid.alike && !decided {
+			decided, kids = true, cmp.Or(cmp.Compare(a.Kids[i].To, b.Kids[i].To), kid.ahead)
+		}
 	}
 	for _, kid := range a.Kids[both:] {
 		r.first += counted(f, kid)
@@ -109,6 +113,11 @@ func compare(f api.Flat, a, b api.Der) rank {
 	for _, kid := range b.Kids[both:] {
 		r.second += counted(f, kid)
 	}
+	r.alike = r.alike && !decided
 	r.ahead = cmp.Or(cmp.Compare(r.first, r.second), cmp.Compare(b.Prod, a.Prod), kids)
 	return r
+}
+
+func alikeButKids(a, b api.Der) bool {
+	return a.Sym == b.Sym && a.Prod == b.Prod && a.From == b.From && a.To == b.To && a.Junk == b.Junk
 }

@@ -1,6 +1,8 @@
 package chart
 
 import (
+	"slices"
+
 	"bramble/api"
 )
 
@@ -78,16 +80,21 @@ func aheadByWords(f api.Flat, a, b api.Der) bool {
 	}
 	for i := 0; i < len(a.Kids) && i < len(b.Kids); i++ {
 		x, y := a.Kids[i], b.Kids[i]
-		switch {
-		case x.To != y.To:
-			return x.To > y.To
-		case aheadByWords(f, x, y):
-			return true
-		case aheadByWords(f, y, x):
-			return false
+		if alikeByWords(x, y) {
+			continue
 		}
+		if x.To != y.To {
+			return x.To > y.To
+		}
+		return aheadByWords(f, x, y)
 	}
 	return false
+}
+
+// alikeByWords tells whether two ways do not differ in anything; an empty list is none.
+func alikeByWords(a, b api.Der) bool {
+	fields := func(d api.Der) [5]int { return [5]int{d.Sym, d.Prod, d.From, d.To, d.Junk} }
+	return fields(a) == fields(b) && slices.EqualFunc(a.Kids, b.Kids, alikeByWords)
 }
 
 func fitByWords(f api.Flat, l []int, d api.Der) bool {
