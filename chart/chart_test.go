@@ -3,7 +3,6 @@ package chart
 import (
 	"math"
 	"reflect"
-	"slices"
 	"strconv"
 	"strings"
 	"testing"
@@ -32,19 +31,6 @@ func plain(t *testing.T, terms, nons, prods string) api.Flat {
 		t.Fatalf("%s is none that flat.Make could have made", prods)
 	}
 	return f
-}
-
-// rowOf is a row by the names of its terminals; what is none of them is a number.
-func rowOf(f api.Flat, s string) []int {
-	var l []int
-	for name := range strings.FieldsSeq(s) {
-		term := slices.Index(f.Terms, name)
-		if term < 0 {
-			term, _ = strconv.Atoi(name)
-		}
-		l = append(l, term)
-	}
-	return l
 }
 
 // show is a way as text: a terminal by its name, another symbol by its production and its kids.
@@ -124,7 +110,7 @@ func TestBest(t *testing.T) {
 		{"a number that is none, where nothing is wanted", "a", "a ->", "-1", 0, ""},
 	} {
 		f := plain(t, "+ x *", c.nons, c.prods)
-		l := rowOf(f, c.row)
+		l := sample.RowOf(f, c.row)
 		d, ok := Best(f, l)
 		if ok != (c.best != "") || Accepts(f, l) != ok || Count(f, l, 1000) != c.ways {
 			t.Errorf("%s: Best tells %v, Accepts %v, Count %d", c.what, ok, Accepts(f, l), Count(f, l, 1000))
@@ -143,7 +129,7 @@ func TestBest(t *testing.T) {
 // P15.3: how many, but most, if there are more.
 func TestCountOfMost(t *testing.T) {
 	f := plain(t, "+ x", "a", sums)
-	l := rowOf(f, "x + x + x + x + x")
+	l := sample.RowOf(f, "x + x + x + x + x")
 	for _, c := range []struct{ most, want int }{
 		{math.MinInt, 0}, {-1, 0}, {0, 0}, {1, 1}, {2, 2}, {7, 7}, {12, 12}, {13, 13}, {14, 14}, {15, 14}, {16, 14}, {math.MaxInt, 14},
 	} {

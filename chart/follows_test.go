@@ -67,21 +67,6 @@ func holdOrder(t *testing.T, f api.Flat, l []int, at span, ways []api.Der) {
 	}
 }
 
-// rows is every row of at most so many of some numbers.
-func rows(numbers []int, most int) [][]int {
-	all := [][]int{nil}
-	for from := 0; most > 0; most-- {
-		to := len(all)
-		for _, l := range all[from:to] {
-			for _, n := range numbers {
-				all = append(all, append(append([]int{}, l...), n))
-			}
-		}
-		from = to
-	}
-	return all
-}
-
 // seen is how often there was no way, one, or more of them.
 type seen struct{ none, one, more int }
 
@@ -116,7 +101,7 @@ func TestEveryGrammar(t *testing.T) {
 			for i := range f.Prods {
 				f.Prods[i].Prec = seed.Below(3) - 1
 			}
-			for _, l := range rows(numbers, c.row) {
+			for _, l := range sample.Rows(numbers, c.row) {
 				s.put(holdWords(t, f, l))
 			}
 		}

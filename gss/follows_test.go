@@ -9,10 +9,10 @@ import (
 )
 
 // names is nodes by their names, in order.
-func names(g api.Gss, numbers []int) []name {
-	var all []name
+func names(g api.Gss, numbers []int) []sample.Name {
+	var all []sample.Name
 	for _, number := range numbers {
-		all = append(all, nameOf(g, number))
+		all = append(all, sample.NameOf(g, number))
 	}
 	return all
 }
@@ -20,7 +20,7 @@ func names(g api.Gss, numbers []int) []name {
 // holdGrows fails where a push has taken anything away: nodes, links, or what lies behind a node.
 func holdGrows(t *testing.T, g, made api.Gss) {
 	t.Helper()
-	if !pileOf(g).within(pileOf(made)) {
+	if !sample.PileOf(g).Within(sample.PileOf(made)) {
 		t.Fatalf("%v: not all is in %v", g, made)
 	}
 	for number, node := range g.Nodes {
@@ -79,7 +79,7 @@ func TestMergeKeeps(t *testing.T) {
 		made := Merge(a, b)
 		holdGrows(t, a, made)
 		holdGrows(t, b, made)
-		if !pileOf(made).within(pileOf(a, b)) {
+		if !sample.PileOf(made).Within(sample.PileOf(a, b)) {
 			t.Fatalf("%v and %v: %v has more", a, b, made)
 		}
 	}

@@ -4,95 +4,10 @@ import (
 	"slices"
 
 	"bramble/api"
+	"bramble/sample"
 )
 
-// What follows says the chapter's words once more, without any order that a stack's nodes have by themselves, so that the calls can be held against them.
-
-// name is a node by its At and its State.
-type name [2]int
-
-func nameOf(g api.Gss, number int) name {
-	return name{g.Nodes[number].At, g.Nodes[number].State}
-}
-
-// pile is the nodes of a stack, each with those behind it, by their names.
-type pile map[name]map[name]int
-
-// put puts a node into a pile, if it is not there, with links to some.
-func (p pile) put(node name, links ...name) {
-	if p[node] == nil {
-		p[node] = map[name]int{}
-	}
-	for _, link := range links {
-		p[node][link] = 1
-	}
-}
-
-// pileOf is the nodes of some stacks, with all their links.
-func pileOf(stacks ...api.Gss) pile {
-	p := pile{}
-	for _, g := range stacks {
-		for number, node := range g.Nodes {
-			p.put(nameOf(g, number))
-			for _, link := range node.Links {
-				p.put(nameOf(g, number), nameOf(g, link))
-			}
-		}
-	}
-	return p
-}
-
-// links is how many links a pile has.
-func (p pile) links() int {
-	all := 0
-	for _, behind := range p {
-		all += len(behind)
-	}
-	return all
-}
-
-// number is how many nodes of a pile are ahead of one, by At, then by State.
-func (p pile) number(node name) int {
-	ahead := 0
-	for other := range p {
-		if other[0] < node[0] || other[0] == node[0] && other[1] < node[1] {
-			ahead++
-		}
-	}
-	return ahead
-}
-
-// stack is the stack that has just what is in a pile.
-func (p pile) stack() api.Gss {
-	if len(p) == 0 {
-		return api.Gss{}
-	}
-	g := api.Gss{Nodes: make([]api.Gnode, len(p))}
-	for node, behind := range p {
-		var links []int
-		for link := range behind {
-			links = append(links, p.number(link))
-		}
-		slices.Sort(links)
-		g.Nodes[p.number(node)] = api.Gnode{State: node[1], At: node[0], Links: links}
-	}
-	return g
-}
-
-// within tells whether all that is in a pile is in another one, too.
-func (p pile) within(other pile) bool {
-	for node, behind := range p {
-		if other[node] == nil {
-			return false
-		}
-		for link := range behind {
-			if other[node][link] == 0 {
-				return false
-			}
-		}
-	}
-	return true
-}
+// What follows says the chapter's words once more, by piles, so that the calls can be held against them.
 
 func isIn(n, least, greatest int) bool {
 	return !(n < least) && !(n > greatest)
@@ -148,13 +63,13 @@ func pushByWords(g api.Gss, from, state, at int) (api.Gss, int, bool) {
 	if !isIn(from, 0, len(g.Nodes)-1) || at < g.Nodes[from].At || !isIn(state, 0, 65535) || !isIn(at, 0, 65535) {
 		return g, -1, false
 	}
-	p := pileOf(g)
-	nodes, links := len(p), p.links()
-	p.put(name{at, state}, nameOf(g, from))
+	p := sample.PileOf(g)
+	nodes, links := len(p), p.Links()
+	p.Put(sample.Name{at, state}, sample.NameOf(g, from))
 	if len(p) > 4096 {
 		return g, -1, false
 	}
-	return p.stack(), p.number(name{at, state}), len(p) > nodes || p.links() > links
+	return p.Stack(), p.Number(sample.Name{at, state}), len(p) > nodes || p.Links() > links
 }
 
 // pathsByWords goes through all rows of as many numbers, in their order, and takes those in which each has a link to the next one.
@@ -204,9 +119,9 @@ func leadsByWords(g api.Gss, from, to, n int) bool {
 }
 
 func mergeByWords(a, b api.Gss) api.Gss {
-	p := pileOf(a, b)
+	p := sample.PileOf(a, b)
 	if len(p) > 4096 {
 		return a
 	}
-	return p.stack()
+	return p.Stack()
 }
