@@ -139,22 +139,6 @@ func TestAheadByFirstKidsThatDiffer(t *testing.T) {
 	}
 }
 
-// change is a way of which some parts are others in one thing each.
-func change(seed *sample.Seed, d api.Der) api.Der {
-	d = sample.RoomyWay(d)
-	parts := sample.PartsOf(&d)
-	some := func() *api.Der { return parts[seed.Below(len(parts))] }
-	some().To += seed.Below(3) - 1
-	some().Prod += seed.Below(3) - 1
-	some().Sym += seed.Below(3) - 1
-	some().From += max(0, seed.Below(4)-2)
-	some().Junk += max(0, seed.Below(4)-2)
-	if one := some(); len(one.Kids) > 0 && seed.Below(4) == 0 {
-		one.Kids = one.Kids[:len(one.Kids)-1]
-	}
-	return d
-}
-
 // P15.1: any two ways.
 func TestDrawnAhead(t *testing.T) {
 	f := counts()
@@ -164,7 +148,7 @@ func TestDrawnAhead(t *testing.T) {
 		a := sample.AnyWay(&seed, 1+seed.Below(8))
 		b := sample.AnyWay(&seed, 1+seed.Below(8))
 		if seed.Below(4) > 0 { // else they hardly ever have kids that are alike
-			b = change(&seed, a)
+			b = sample.OtherWay(&seed, a)
 		}
 		if Prec(f, a) != precByWords(f, a) || Prec(f, b) != precByWords(f, b) {
 			t.Fatalf("%v, %v: Prec: %d, %d", a, b, Prec(f, a), Prec(f, b))

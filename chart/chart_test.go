@@ -12,21 +12,10 @@ import (
 	"bramble/sample"
 )
 
-// plain is a fit plain grammar of which no symbol comes of itself alone, by its terminals' names, its others', and its productions, each with its Prec behind a %, if that is not 0.
+// plain is a fit plain grammar of which no symbol comes of itself alone, by its terminals' names, its others', and its productions.
 func plain(t *testing.T, terms, nons, prods string) api.Flat {
 	t.Helper()
-	var rights []string
-	var precs []int
-	for line := range strings.SplitSeq(prods, ";") {
-		right, prec, _ := strings.Cut(line, "%")
-		rights = append(rights, right)
-		n, _ := strconv.Atoi(strings.TrimSpace(prec))
-		precs = append(precs, n)
-	}
-	f := sample.FlatOf(terms, nons, strings.Join(rights, ";"))
-	for i := range f.Prods {
-		f.Prods[i].Prec = precs[i]
-	}
+	f := sample.FlatOf(terms, nons, prods)
 	if !flat.Fit(f) || sample.Round(f) {
 		t.Fatalf("%s is none that flat.Make could have made", prods)
 	}

@@ -203,30 +203,6 @@ func TestDeepWays(t *testing.T) {
 	}
 }
 
-// fitOnes is plain grammars that are fit, but none that flat.Make could have made.
-func fitOnes() []api.Flat {
-	full, pairs, chain := sample.Symbols(200, 400), sample.Symbols(1, 400), sample.Symbols(1, 399)
-	for i := range 400 {
-		full.Prods = append(full.Prods, api.Prod{Left: 200 + i, Right: slices.Repeat(sample.Items(200+(i+1)%400), 64)})
-		pairs.Prods = append(pairs.Prods, api.Prod{Left: 1 + i, Right: sample.Items(2+i, 2+i)})
-	}
-	pairs.Prods[399].Right = nil
-	for i := range 399 {
-		chain.Prods = append(chain.Prods, api.Prod{Left: 1 + i, Right: sample.Items(1+(i+1)%399, 1+i, 1+(i+1)%399)})
-	}
-	chain.Prods = append(chain.Prods, api.Prod{Left: 399})
-	wide := sample.FlatOf("x", "a", "a ->")
-	for range 24 {
-		wide.Prods = append(wide.Prods, api.Prod{Left: 1, Right: slices.Repeat(sample.Items(1), 64)})
-	}
-	opts := sample.FlatOf("x", "a b", "")
-	for range 397 {
-		opts.Prods = append(opts.Prods, api.Prod{Left: 1, Right: append(sample.Items(1, 0), slices.Repeat(sample.Items(2), 62)...)})
-	}
-	opts.Prods = append(opts.Prods, api.Prod{Left: 1}, api.Prod{Left: 2}, api.Prod{Left: 2, Right: sample.Items(0)})
-	return []api.Flat{full, pairs, chain, wide, opts, sample.LeftOnes(), sample.FlatOfSets(600, true)}
-}
-
 // callAll calls everything with a plain grammar, a row and two ways.
 func callAll(f api.Flat, l []int, a, b api.Der) {
 	Accepts(f, l)
@@ -247,7 +223,7 @@ func TestOdd(t *testing.T) {
 	for _, n := range far {
 		ways = append(ways, api.Der{Sym: n, Prod: n, From: n, To: n, Junk: n}, by(n, 1, n, n, leaf(n, n), leaf(0, n)), by(0, 1, 0, n, by(n, 1, n, 0)))
 	}
-	for i, f := range append(sample.OddFlats(), fitOnes()...) {
+	for i, f := range append(sample.OddFlats(), sample.FitFlats()...) {
 		for k, l := range rows {
 			callAll(f, l, ways[(i+k)%len(ways)], ways[i%len(ways)])
 		}
@@ -282,7 +258,7 @@ func TestRound(t *testing.T) {
 
 // 0.1: a way of more parts than there is room for is not told.
 func TestTooManyParts(t *testing.T) {
-	f := fitOnes()[1]
+	f := sample.FitFlats()[1]
 	if d, ok := Best(f, nil); ok || d.Kids != nil || d.Sym != 0 {
 		t.Errorf("%v", d)
 	}

@@ -55,17 +55,6 @@ func TestArgumentsStay(t *testing.T) {
 	}
 }
 
-// spoil writes over all kids of a way, and behind them.
-func spoil(d api.Der) {
-	for _, kid := range d.Kids {
-		spoil(kid)
-	}
-	l := d.Kids[:cap(d.Kids)]
-	for i := range l {
-		l[i] = api.Der{Sym: 77}
-	}
-}
-
 // 0.5: what is told lies in memory of its own: what is written over it is seen in no argument and in no other answer.
 func TestAnswersShareNothing(t *testing.T) {
 	for i, was := range questions() {
@@ -78,7 +67,7 @@ func TestAnswersShareNothing(t *testing.T) {
 		if fmt.Sprint(told) != text {
 			t.Errorf("question %d: lists of one answer share memory", i)
 		}
-		spoil(told)
+		sample.SpoilWay(told)
 		if again, _ := Best(now.f, now.l); fmt.Sprint(again) != text || !now.stays(was) {
 			t.Errorf("question %d: memory is shared", i)
 		}

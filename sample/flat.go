@@ -10,7 +10,7 @@ import (
 	"bramble/api"
 )
 
-// FlatOf is a plain grammar by the names of its terminals, of its others, and its productions, as in "a -> b x; b ->". A name that is none of them is the symbol -1, so that the grammar is not fit.
+// FlatOf is a plain grammar by the names of its terminals, of its others, and its productions, as in "a -> b x; b -> %2": a number behind a % is what that production counts. A name that is none of them is the symbol -1, so that the grammar is not fit.
 func FlatOf(terms, nons, prods string) api.Flat {
 	f := api.Flat{Terms: strings.Fields(terms), Nons: strings.Fields(nons)}
 	names := slices.Concat(f.Terms, f.Nons)
@@ -20,6 +20,10 @@ func FlatOf(terms, nons, prods string) api.Flat {
 	for line := range strings.SplitSeq(prods, ";") {
 		left, right, _ := strings.Cut(line, "->")
 		p := api.Prod{Left: slices.Index(names, strings.TrimSpace(left))}
+		right, prec, counts := strings.Cut(right, "%")
+		if counts {
+			p.Prec = number(strings.TrimSpace(prec))
+		}
 		for name := range strings.FieldsSeq(right) {
 			p.Right = append(p.Right, api.Item{Sym: slices.Index(names, name)})
 		}

@@ -11,9 +11,9 @@ import (
 
 func TestFlatOf(t *testing.T) {
 	want := api.Flat{Terms: []string{"x", "y"}, Nons: []string{"a", "b"}, Prods: []api.Prod{
-		{Left: 2, Right: []api.Item{{Sym: 3}, {Sym: 0}}}, {Left: 3}, {Left: 3, Right: []api.Item{{Sym: 1}}}, {Left: -1, Right: []api.Item{{Sym: -1}}},
+		{Left: 2, Right: []api.Item{{Sym: 3}, {Sym: 0}}}, {Left: 3, Prec: -7}, {Left: 3, Right: []api.Item{{Sym: 1}}, Prec: 20}, {Left: -1, Right: []api.Item{{Sym: -1}}},
 	}}
-	if got := FlatOf("x y", "a b", "a -> b x; b ->; b -> y; c -> d"); !reflect.DeepEqual(got, want) {
+	if got := FlatOf("x y", "a b", "a -> b x; b -> %-7; b -> y % 20; c -> d"); !reflect.DeepEqual(got, want) {
 		t.Errorf("%v, not %v", got, want)
 	}
 	if got := FlatOf("", "a", " "); len(got.Terms) != 0 || len(got.Nons) != 1 || got.Prods != nil {
@@ -157,6 +157,19 @@ func TestOddFlats(t *testing.T) {
 	}
 	if len(most.Terms) != 100000 || len(most.Nons) != 100000 || len(most.Prods) != 200000 || wrong < 20 {
 		t.Errorf("at most %d terminals, %d others, %d productions; %d with a wrong number", len(most.Terms), len(most.Nons), len(most.Prods), wrong)
+	}
+}
+
+func TestFitFlats(t *testing.T) {
+	all := FitFlats()
+	for i, f := range all {
+		if !rising(f) || len(f.Terms)+len(f.Nons) > 600 || len(f.Prods) > 400 {
+			t.Errorf("grammar %d is not fit", i)
+		}
+	}
+	heights := heightsOf(all[1])
+	if heights[1] != 400 || Round(all[1]) || !Round(all[2]) {
+		t.Errorf("the second one is %d high", heights[1])
 	}
 }
 

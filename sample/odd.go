@@ -41,3 +41,27 @@ func OddFlats() []api.Flat {
 	}
 	return all
 }
+
+// FitFlats is plain grammars that are fit, but none that flat.Make could make. The one at place 1 comes of nothing in more parts than any list can hold.
+func FitFlats() []api.Flat {
+	full, pairs, chain := Symbols(200, 400), Symbols(1, 400), Symbols(1, 399)
+	for i := range 400 {
+		full.Prods = append(full.Prods, api.Prod{Left: 200 + i, Right: slices.Repeat(Items(200+(i+1)%400), 64)})
+		pairs.Prods = append(pairs.Prods, api.Prod{Left: 1 + i, Right: Items(2+i, 2+i)})
+	}
+	pairs.Prods[399].Right = nil
+	for i := range 399 {
+		chain.Prods = append(chain.Prods, api.Prod{Left: 1 + i, Right: Items(1+(i+1)%399, 1+i, 1+(i+1)%399)})
+	}
+	chain.Prods = append(chain.Prods, api.Prod{Left: 399})
+	wide := FlatOf("x", "a", "a ->")
+	for range 24 {
+		wide.Prods = append(wide.Prods, api.Prod{Left: 1, Right: slices.Repeat(Items(1), 64)})
+	}
+	opts := FlatOf("x", "a b", "")
+	for range 397 {
+		opts.Prods = append(opts.Prods, api.Prod{Left: 1, Right: append(Items(1, 0), slices.Repeat(Items(2), 62)...)})
+	}
+	opts.Prods = append(opts.Prods, api.Prod{Left: 1}, api.Prod{Left: 2}, api.Prod{Left: 2, Right: Items(0)})
+	return []api.Flat{full, pairs, chain, wide, opts, LeftOnes(), FlatOfSets(600, true)}
+}

@@ -127,6 +127,22 @@ func AnyWay(seed *Seed, parts int) api.Der {
 	return d
 }
 
+// OtherWay is a way, in memory of its own, of which some parts that are drawn are others in one thing each.
+func OtherWay(seed *Seed, d api.Der) api.Der {
+	d = RoomyWay(d)
+	parts := PartsOf(&d)
+	some := func() *api.Der { return parts[seed.Below(len(parts))] }
+	some().To += seed.Below(3) - 1
+	some().Prod += seed.Below(3) - 1
+	some().Sym += seed.Below(3) - 1
+	some().From += max(0, seed.Below(4)-2)
+	some().Junk += max(0, seed.Below(4)-2)
+	if one := some(); len(one.Kids) > 0 && seed.Below(4) == 0 {
+		one.Kids = one.Kids[:len(one.Kids)-1]
+	}
+	return d
+}
+
 // PartsOf is the parts of a way, each ahead of its kids, where they lie: a test can change one of them alone.
 func PartsOf(d *api.Der) []*api.Der {
 	all := []*api.Der{d}
@@ -159,6 +175,17 @@ func WayRoomStays(d api.Der) bool {
 		}
 	}
 	return true
+}
+
+// SpoilWay writes over all kids of a way, and behind them, so that who shares their memory shows it.
+func SpoilWay(d api.Der) {
+	for _, kid := range d.Kids {
+		SpoilWay(kid)
+	}
+	l := d.Kids[:cap(d.Kids)]
+	for i := range l {
+		l[i] = api.Der{Sym: 77}
+	}
 }
 
 // EndlessWays is ways that hold themselves, lie far too deep, or hold so many others that none could go through them all: each is of the symbol 1 by the production 0, from 0 to 0.

@@ -1,6 +1,7 @@
 package sample
 
 import (
+	"fmt"
 	"reflect"
 	"testing"
 
@@ -163,6 +164,38 @@ func TestRoomyWay(t *testing.T) {
 	}
 	if !reflect.DeepEqual(way, made()) {
 		t.Error("memory is shared")
+	}
+}
+
+func TestOtherWay(t *testing.T) {
+	a, b := Seed(5), Seed(5)
+	was := api.Der{Sym: 1, Kids: []api.Der{{Prod: 1, Kids: []api.Der{{}, {To: 1}}}, {Sym: 2}}}
+	text := fmt.Sprint(was)
+	fewer, unlike := 0, map[string]int{}
+	for range 300 {
+		d := OtherWay(&a, was)
+		if !reflect.DeepEqual(d, OtherWay(&b, was)) {
+			t.Fatal("a seed tells other ways")
+		}
+		if unlike[fmt.Sprint(d)]++; len(PartsOf(&d)) < 5 {
+			fewer++
+		}
+	}
+	if fmt.Sprint(was) != text || len(unlike) < 100 || unlike[text] == 0 || fewer < 20 {
+		t.Errorf("%v; %d unlike ones, %d as it was, %d with fewer parts", was, len(unlike), unlike[text], fewer)
+	}
+}
+
+func TestSpoilWay(t *testing.T) {
+	d := RoomyWay(api.Der{Sym: 1, Kids: []api.Der{{Sym: 2, Kids: []api.Der{{Sym: 3}}}, {Sym: 4}}})
+	lists := [][]api.Der{d.Kids, d.Kids[0].Kids}
+	SpoilWay(d)
+	for i, l := range lists {
+		for k, kid := range l[:cap(l)] {
+			if kid.Sym != 77 || kid.Kids != nil {
+				t.Errorf("list %d, kid %d: %v", i, k, kid)
+			}
+		}
 	}
 }
 
