@@ -91,8 +91,8 @@ func RoomyTree(n api.Node) api.Node {
 
 // TreeRoomStays tells whether what lies behind the lists is as RoomyTree left it.
 func TreeRoomStays(n api.Node) bool {
-	for _, x := range n.Kids[len(n.Kids):cap(n.Kids)] {
-		if x.Kind != "" || x.Named || x.Field != "" || x.From != 0 || x.To != 0 || x.Bad != 0 || x.Kids != nil {
+	for _, behind := range n.Kids[len(n.Kids):cap(n.Kids)] {
+		if !isNone(behind) {
 			return false
 		}
 	}
@@ -102,6 +102,11 @@ func TreeRoomStays(n api.Node) bool {
 		}
 	}
 	return true
+}
+
+// isNone tells whether a node is the zero one.
+func isNone(n api.Node) bool {
+	return n.Kind == "" && !n.Named && n.Field == "" && n.From == 0 && n.To == 0 && n.Bad == 0 && n.Kids == nil
 }
 
 // EndlessTrees is trees that hold themselves, lie far too deep, or hold so many others that none could go through them all.
