@@ -155,7 +155,7 @@ func TestFitOfNodes(t *testing.T) {
 // P20.1: two live slots that differ in one thing alone.
 func TestFitOfAlike(t *testing.T) {
 	a := sample.ArenaOf("-1 | 0 1 | a*1 a*1")
-	for _, n := range []api.Node{{Kind: "ab"}, {Kind: "a", Named: true}, {Kind: "a", Field: "a"}, {Kind: "a", From: 1 << 40}, {Kind: "a", To: -1}, {Kind: "a", Bad: 1}, {Kind: "", Field: "a"}, {Kind: "a", From: 0, To: 1}, {Kind: "a", From: 1}} {
+	for _, n := range []api.Node{{Kind: "ab"}, {Kind: "a", Named: true}, {Kind: "a", Field: "a"}, {Kind: "a", From: 1 << 40}, {Kind: "a", To: -1}, {Kind: "a", To: 1 << 40}, {Kind: "a", Bad: 1}, {Kind: "a", Bad: 1 << 40}, {Kind: "", Field: "a"}, {Kind: "a", From: 0, To: 1}, {Kind: "a", From: 1}} {
 		for place := range 2 {
 			b := sample.RoomyArena(a)
 			if b.Slots[place].Node = n; !Fit(b) || !fitByWords(b) {
