@@ -37,6 +37,39 @@ func NodesOf(n *api.Node) []*api.Node {
 	return all
 }
 
+// FitTrees is every tree of just so many nodes, each of one of some Kinds, that is fit, as chapter 14 says it, and lies from one place on up to another one. They share memory, so that none may be changed.
+func FitTrees(nodes, from, to int, kinds ...string) []api.Node {
+	var all []api.Node
+	for _, row := range fitRows(nodes, from, to, kinds) {
+		if len(row) == 1 {
+			all = append(all, row[0])
+		}
+	}
+	return all
+}
+
+// fitRows is every row of such trees of just so many nodes in all.
+func fitRows(nodes, from, to int, kinds []string) [][]api.Node {
+	if nodes <= 0 {
+		return [][]api.Node{nil}
+	}
+	var all [][]api.Node
+	for start := from; start <= to; start++ {
+		for end := start; end <= to; end++ {
+			for within := range nodes {
+				kids := fitRows(within, start, end, kinds)
+				for _, rest := range fitRows(nodes-1-within, end, to, kinds) {
+					for i := range len(kids) * len(kinds) {
+						first := api.Node{Kind: kinds[i%len(kinds)], From: start, To: end, Kids: kids[i/len(kinds)]}
+						all = append(all, append([]api.Node{first}, rest...))
+					}
+				}
+			}
+		}
+	}
+	return all
+}
+
 // FitTree is a tree that is drawn, of the bytes from one place up to another one, at most so many nodes within one another: fit, as chapter 14 says it, while that is at most 6.
 func FitTree(seed *Seed, from, to, deep int) api.Node {
 	n := api.Node{Kind: []string{"a", "b", "\"+\"", "ERROR"}[seed.Below(4)], Named: seed.Below(2) == 0, From: from, To: to}

@@ -49,6 +49,45 @@ func TestNodesOf(t *testing.T) {
 	}
 }
 
+func TestFitTrees(t *testing.T) {
+	for i, wants := range [][]int{{2, 6, 12}, {4, 20, 60}, {16, 112, 448}, {80, 720, 3600}} {
+		for size, want := range wants {
+			all := FitTrees(i+1, 5, 5+size, "a", "b")
+			met := map[string]int{}
+			for _, n := range all {
+				met[fmt.Sprint(n)]++
+				if parts := NodesOf(&n); len(parts) != i+1 || n.From < 5 || n.To > 5+size || !kidsLieWithin(parts) {
+					t.Fatalf("%d nodes: %v", i+1, n)
+				}
+			}
+			// How many there are is counted by hand up to three nodes of one byte, and the others lie as they must and differ.
+			if len(all) != want || len(met) != want {
+				t.Errorf("%d trees of %d nodes, %d that differ, not %d", len(all), i+1, len(met), want)
+			}
+		}
+	}
+	if all := FitTrees(0, 0, 3, "a"); all != nil {
+		t.Errorf("of no node: %v", all)
+	}
+}
+
+// kidsLieWithin tells whether the kids of each of some nodes lie in order, and within it.
+func kidsLieWithin(nodes []*api.Node) bool {
+	for _, part := range nodes {
+		at := part.From
+		for _, kid := range part.Kids {
+			if kid.From < at || kid.To < kid.From || kid.To > part.To {
+				return false
+			}
+			at = kid.To
+		}
+		if part.To < at {
+			return false
+		}
+	}
+	return true
+}
+
 func TestFitTree(t *testing.T) {
 	a, b := Seed(5), Seed(5)
 	bads, kids, deep, gaps, empty := make([]int, api.NumBads), make([]int, 5), 0, 0, 0
